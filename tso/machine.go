@@ -2,8 +2,8 @@ package tso
 
 import (
 	"ordeal/api"
-	"ordeal/flow"
 	"ordeal/litmus"
+	"ordeal/local"
 	"ordeal/outcome"
 )
 
@@ -13,10 +13,9 @@ type machine struct {
 	threads [api.MaxThreads]thread
 }
 
-// thread is a thread's next instruction, its registers, and its store buffer: the oldest store first.
+// thread is a thread with its store buffer: the oldest store first.
 type thread struct {
-	next   int
-	regs   [api.MaxRegs]uint64
+	local.Thread
 	buffer [api.MaxInstrs]store
 	stores int
 }
@@ -34,7 +33,7 @@ func start(t *litmus.Test) machine {
 		m.memory[i] = loc.V
 	}
 	for i, list := range t.Threads {
-		m.threads[i].compute(list)
+		m.threads[i].Run(list, isStep)
 	}
 	return m
 }
@@ -67,55 +66,33 @@ func (m machine) drained(i int) machine {
 // executed: the machine after a thread's next memory instruction or full Fence; false if there is none, or if it has to wait for the buffer.
 func (m machine) executed(i int, list []litmus.Instr) (machine, bool) {
 	th := &m.threads[i]
-	if th.next == len(list) {
+	if th.Next == len(list) {
 		return machine{}, false
 	}
-	x := list[th.next]
+	x := list[th.Next]
 	// A is the value from before Rd is set.
-	a := th.arg(x.A)
+	a := th.Arg(x.A)
 	switch {
 	case x.Op == litmus.Load:
-		th.regs[x.Rd] = th.loaded(x.Loc, m.memory[x.Loc])
+		th.Regs[x.Rd] = th.loaded(x.Loc, m.memory[x.Loc])
 	case x.Op == litmus.Store:
 		th.buffer[th.stores] = store{loc: x.Loc, v: a}
 		th.stores++
 	case th.stores > 0:
 		return machine{}, false
 	case x.Op == litmus.Swap:
-		th.regs[x.Rd], m.memory[x.Loc] = m.memory[x.Loc], a
+		th.Regs[x.Rd], m.memory[x.Loc] = m.memory[x.Loc], a
 	case x.Op == litmus.Amo:
-		th.regs[x.Rd], m.memory[x.Loc] = m.memory[x.Loc], m.memory[x.Loc]+a
+		th.Regs[x.Rd], m.memory[x.Loc] = m.memory[x.Loc], m.memory[x.Loc]+a
 	}
-	th.next++
-	th.compute(list)
+	th.Next++
+	th.Run(list, isStep)
 	return m, true
 }
 
-// compute executes a thread up to its next memory instruction or full Fence.
-func (th *thread) compute(list []litmus.Instr) {
-	for th.next < len(list) {
-		x := list[th.next]
-		if x.IsMemory() || isFull(x) {
-			return
-		}
-		a, b := th.arg(x.A), th.arg(x.B)
-		th.next++
-		switch x.Op {
-		case litmus.Li:
-			th.regs[x.Rd] = a
-		case litmus.Beq:
-			if a == b {
-				th.next += x.Skip
-			}
-		case litmus.Bne:
-			if a != b {
-				th.next += x.Skip
-			}
-		case litmus.Fence:
-		default:
-			th.regs[x.Rd] = flow.Reckon(x.Op, a, b)
-		}
-	}
+// isStep: whether an instruction is a step of its own.
+func isStep(x litmus.Instr) bool {
+	return x.IsMemory() || isFull(x)
 }
 
 // isFull: whether an instruction is a full Fence, one that waits until the buffer is empty.
@@ -133,19 +110,11 @@ func (th *thread) loaded(loc int, memory uint64) uint64 {
 	return memory
 }
 
-// arg: the value of an Arg.
-func (th *thread) arg(a litmus.Arg) uint64 {
-	if a.Reg {
-		return th.regs[a.N]
-	}
-	return a.N
-}
-
 // state: the state of a test that has ended.
 func (m machine) state(t *litmus.Test) outcome.State {
 	var regs [][api.MaxRegs]uint64
 	for i := range t.Threads {
-		regs = append(regs, m.threads[i].regs)
+		regs = append(regs, m.threads[i].Regs)
 	}
 	return outcome.Made(t, regs, m.memory)
 }
